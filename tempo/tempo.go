@@ -1,0 +1,92 @@
+// Package tempo: events in the order of time: see DOC.md.
+package tempo
+
+import (
+	"tempo/api"
+	"tempo/model"
+	"tempo/queue"
+)
+
+// Check tells whether a model may be; else of which kind which instruction may not (P2).
+func Check(m api.Model) (api.Errno, int, int) { return model.Check(m) }
+
+// Kernel lets events happen.
+type Kernel struct {
+	model     api.Model
+	draws     []int
+	taken     int // how many of the draws are used up
+	clock     int
+	registers [api.MaxEntities][api.Registers]int
+	waits     *queue.Queue
+	next      int // the number of the next event that is planned
+}
+
+// New makes a kernel (P3).
+func New(m api.Model, draws []int) (*Kernel, api.Errno) {
+	if e, _, _ := model.Check(m); e != api.OK {
+		return nil, e
+	}
+	if !model.AreDraws(draws) {
+		return nil, api.ErrArg
+	}
+	// Copies, as the caller may go on writing into what was handed in.
+	return &Kernel{
+		model: model.Copy(m),
+		draws: append([]int(nil), draws...),
+		waits: queue.New(),
+		next:  1,
+	}, api.OK
+}
+
+// Plan plans an event (P4).
+func (k *Kernel) Plan(time int, kind int, entity int) (int, api.Errno) {
+	if time < k.clock || time > api.MaxTime || !model.HasKind(k.model, kind) || !model.HasEntity(k.model, entity) {
+		return 0, api.ErrArg
+	}
+	if !k.hasRoom() {
+		return 0, api.ErrFull
+	}
+	return k.put(time, kind, entity), api.OK
+}
+
+// hasRoom tells whether one more event can be planned: numbers are used up too, as registers must be able to hold them.
+func (k *Kernel) hasRoom() bool { return !k.waits.Full() && k.next < api.MaxValue }
+
+// put lets an event wait that may be planned, and tells its number.
+func (k *Kernel) put(time int, kind int, entity int) int {
+	number := k.next
+	k.waits.Put(queue.Event{Number: number, Time: time, Kind: kind, Entity: entity})
+	k.next++
+	return number
+}
+
+// Run lets events happen (P5, P6).
+func (k *Kernel) Run(steps int, horizon int) ([]api.Record, int, api.Errno) {
+	return nil, 0, api.OK
+}
+
+// Now tells the clock, how many events wait, how many draws are left (P7).
+func (k *Kernel) Now() (int, int, int) { return k.clock, k.waits.Len(), len(k.draws) - k.taken }
+
+// Register tells a register (P7).
+func (k *Kernel) Register(entity int, r int) (int, api.Errno) {
+	if !model.HasEntity(k.model, entity) || !model.IsRegister(r) {
+		return 0, api.ErrArg
+	}
+	return k.registers[entity][r], api.OK
+}
+
+// Save writes a kernel as bytes (P8).
+func (k *Kernel) Save() []byte { return nil }
+
+// Load reads a kernel from bytes (P9).
+func Load(m api.Model, draws []int, b []byte) (*Kernel, api.Errno) { return nil, api.OK }
+
+// Encode writes records as bytes (P10).
+func Encode(l []api.Record) ([]byte, api.Errno) { return nil, api.OK }
+
+// Decode reads records from bytes (P11).
+func Decode(b []byte) ([]api.Record, api.Errno) { return nil, api.OK }
+
+// Compare tells where two lists of records part (P12).
+func Compare(a []api.Record, b []api.Record) int { return 0 }
