@@ -68,6 +68,9 @@ func HasEntity(m api.Model, entity int) bool { return within(entity, 0, m.Entiti
 // IsRegister tells whether every entity has a register of that number.
 func IsRegister(r int) bool { return within(r, 0, api.Registers-1) }
 
+// Cut makes a value of a number that may be beyond.
+func Cut(n int) int { return min(max(n, -api.MaxValue), api.MaxValue) }
+
 func isValue(n int) bool { return within(n, -api.MaxValue, api.MaxValue) }
 
 func within(n, low, high int) bool { return low <= n && n <= high }

@@ -123,3 +123,11 @@ func TestCopySharesNothing(t *testing.T) {
 		t.Errorf("P1: a copy follows what it was made of: %v", c)
 	}
 }
+
+func TestCut(t *testing.T) {
+	for _, c := range [][2]int{{0, 0}, {-7, -7}, {1000000000, 1000000000}, {1000000001, 1000000000}, {-1000000000, -1000000000}, {-1000000001, -1000000000}, {math.MaxInt, 1000000000}, {math.MinInt, -1000000000}} {
+		if got := Cut(c[0]); got != c[1] {
+			t.Errorf("P5: Cut(%d) = %d, want %d", c[0], got, c[1])
+		}
+	}
+}

@@ -12,13 +12,18 @@ func Check(m api.Model) (api.Errno, int, int) { return model.Check(m) }
 
 // Kernel lets events happen.
 type Kernel struct {
-	model     api.Model
-	draws     []int
-	taken     int // how many of the draws are used up
+	model api.Model
+	draws []int
+	waits *queue.Queue
+	state
+}
+
+// state: what steps change beside the queue. It holds no pointer, so that an assignment is a copy to go back to.
+type state struct {
 	clock     int
-	registers [api.MaxEntities][api.Registers]int
-	waits     *queue.Queue
 	next      int // the number of the next event that is planned
+	taken     int // how many of the draws are used up
+	registers [api.MaxEntities][api.Registers]int
 }
 
 // New makes a kernel (P3).
@@ -34,7 +39,7 @@ func New(m api.Model, draws []int) (*Kernel, api.Errno) {
 		model: model.Copy(m),
 		draws: append([]int(nil), draws...),
 		waits: queue.New(),
-		next:  1,
+		state: state{next: 1},
 	}, api.OK
 }
 
@@ -62,7 +67,22 @@ func (k *Kernel) put(time int, kind int, entity int) int {
 
 // Run lets events happen (P5, P6).
 func (k *Kernel) Run(steps int, horizon int) ([]api.Record, int, api.Errno) {
-	return nil, 0, api.OK
+	if steps < 0 || steps > api.MaxSteps {
+		return nil, 0, api.ErrArg
+	}
+	// With room for all of them no record waits for being ranged over.
+	made := make(chan api.Record, steps)
+	why := k.makeSteps(steps, horizon, made)
+	return listed(made), why, api.OK
+}
+
+// listed gives out the records of a run as a list.
+func listed(made <-chan api.Record) []api.Record {
+	var l []api.Record
+	for r := range made {
+		l = append(l, r)
+	}
+	return l
 }
 
 // Now tells the clock, how many events wait, how many draws are left (P7).
