@@ -36,6 +36,21 @@ func (q *Queue) First() (Event, bool) {
 	return q.waits[q.order[0].number], true
 }
 
+// Has tells whether an event of that number waits.
+func (q *Queue) Has(number int) bool {
+	_, ok := q.waits[number]
+	return ok
+}
+
+// InOrder lists the events that wait as they would happen.
+func (q *Queue) InOrder() []Event {
+	l := make([]Event, 0, len(q.order))
+	for left := slices.Clone(q.order); len(left) > 0; left = left.without(0) {
+		l = append(l, q.waits[left[0].number])
+	}
+	return l
+}
+
 // Drop lets the event of that number wait no more, if it does.
 func (q *Queue) Drop(number int) {
 	e, ok := q.waits[number]

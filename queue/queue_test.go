@@ -124,3 +124,37 @@ func TestBecome(t *testing.T) {
 		t.Errorf("P5: the queue is %v, want %v; the copy is %v, want nothing", q, filled(l...), spare)
 	}
 }
+
+func TestHas(t *testing.T) {
+	q := filled(Event{Number: 2, Time: 4}, Event{Number: 5, Time: 1})
+	q.Drop(5)
+	for n, want := range []bool{false, false, true, false, false, false} {
+		if q.Has(n) != want {
+			t.Errorf("P9: Has(%d) = %v", n, !want)
+		}
+	}
+}
+
+// TestInOrder lists queues out of which events were taken: as they would happen, and nothing changes.
+func TestInOrder(t *testing.T) {
+	if l := New().InOrder(); len(l) != 0 {
+		t.Errorf("P8: InOrder() of an empty queue = %v", l)
+	}
+	source := rand.New(rand.NewPCG(3, 8))
+	for range 2000 {
+		q := New()
+		for n := range source.IntN(17) {
+			q.Put(Event{Number: n + 1, Time: source.IntN(8), Kind: source.IntN(8), Entity: source.IntN(8)})
+		}
+		q.Drop(1 + source.IntN(16))
+		same := New()
+		same.Become(q)
+		l := q.InOrder()
+		if !reflect.DeepEqual(q.waits, same.waits) || !slices.Equal(q.order, same.order) {
+			t.Fatalf("P8: InOrder() changed %v to %v", same, q)
+		}
+		if want := emptied(same); !slices.Equal(l, want) {
+			t.Fatalf("P8: InOrder() = %v, want %v", l, want)
+		}
+	}
+}

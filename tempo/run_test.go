@@ -51,8 +51,13 @@ func happened(number, time, kind, entity int, told ...int) api.Record {
 	return api.Record{Number: number, Time: time, Kind: kind, Entity: entity, Told: told}
 }
 
+// exampleModel: the document's own.
+func exampleModel() api.Model {
+	return of(1, code(in(api.Add, 0, 1), in(api.Tell, 0), in(api.Plan, 0, 0, 2)), code(in(api.Set, 1, 5), in(api.Set, 2, 3), in(api.Plan, 0, 0, 2)))
+}
+
 func TestTheExampleOfARun(t *testing.T) {
-	k := made(t, of(1, code(in(api.Add, 0, 1), in(api.Tell, 0), in(api.Plan, 0, 0, 2)), code(in(api.Set, 1, 5), in(api.Set, 2, 3), in(api.Plan, 0, 0, 2))), nil)
+	k := made(t, exampleModel(), nil)
 	if n, e := k.Plan(10, 1, 0); n != 1 || e != api.OK {
 		t.Fatalf("P4: Plan(10, 1, 0) = %d, %d", n, e)
 	}

@@ -5,6 +5,7 @@ import (
 	"tempo/api"
 	"tempo/model"
 	"tempo/queue"
+	"tempo/wire"
 )
 
 // Check tells whether a model may be; else of which kind which instruction may not (P2).
@@ -97,10 +98,27 @@ func (k *Kernel) Register(entity int, r int) (int, api.Errno) {
 }
 
 // Save writes a kernel as bytes (P8).
-func (k *Kernel) Save() []byte { return nil }
+func (k *Kernel) Save() []byte {
+	w := wire.Begin(savedHead)
+	k.write(w)
+	return w.End()
+}
 
 // Load reads a kernel from bytes (P9).
-func Load(m api.Model, draws []int, b []byte) (*Kernel, api.Errno) { return nil, api.OK }
+func Load(m api.Model, draws []int, b []byte) (*Kernel, api.Errno) {
+	k, e := New(m, draws)
+	if e != api.OK {
+		return nil, e
+	}
+	r, e := wire.Open(savedHead, b)
+	if e != api.OK {
+		return nil, e
+	}
+	if !k.read(r) {
+		return nil, api.ErrForm
+	}
+	return k, api.OK
+}
 
 // Encode writes records as bytes (P10).
 func Encode(l []api.Record) ([]byte, api.Errno) { return nil, api.OK }
