@@ -1,4 +1,4 @@
-// Package model: which models may be, and copies of them.
+// Package model: which models, draws and values may be, and copies of models.
 package model
 
 import (
@@ -9,7 +9,7 @@ import (
 
 // Check tells whether a model may be; else of which kind which instruction may not.
 func Check(m api.Model) (api.Errno, int, int) {
-	if !within(m.Entities, 1, api.MaxEntities) || !within(len(m.Kinds), 1, api.MaxKinds) {
+	if !Within(m.Entities, 1, api.MaxEntities) || !Within(len(m.Kinds), 1, api.MaxKinds) {
 		return api.ErrModel, 0, 0
 	}
 	for kind, code := range m.Kinds {
@@ -41,9 +41,9 @@ func mayBe(m api.Model, in api.Instr) bool {
 	case api.Add, api.Sub:
 		return IsRegister(in.A) && IsRegister(in.B) && in.C == 0
 	case api.Draw:
-		return IsRegister(in.A) && within(in.B, 1, api.MaxValue) && in.C == 0
+		return IsRegister(in.A) && Within(in.B, 1, api.MaxValue) && in.C == 0
 	case api.Skip:
-		return IsRegister(in.A) && within(in.B, 1, api.MaxCode) && in.C == 0
+		return IsRegister(in.A) && Within(in.B, 1, api.MaxCode) && in.C == 0
 	case api.Plan:
 		return HasKind(m, in.A) && HasEntity(m, in.B) && IsRegister(in.C)
 	case api.Drop, api.Tell:
@@ -57,23 +57,34 @@ func AreDraws(draws []int) bool {
 	return len(draws) <= api.MaxDraws && !slices.ContainsFunc(draws, notDraw)
 }
 
-func notDraw(n int) bool { return !within(n, 0, api.MaxValue) }
+func notDraw(n int) bool { return !Within(n, 0, api.MaxValue) }
 
 // HasKind tells whether a model has a kind of that number.
-func HasKind(m api.Model, kind int) bool { return within(kind, 0, len(m.Kinds)-1) }
+func HasKind(m api.Model, kind int) bool { return Within(kind, 0, len(m.Kinds)-1) }
 
 // HasEntity tells whether a model has an entity of that number.
-func HasEntity(m api.Model, entity int) bool { return within(entity, 0, m.Entities-1) }
+func HasEntity(m api.Model, entity int) bool { return Within(entity, 0, m.Entities-1) }
 
 // IsRegister tells whether every entity has a register of that number.
-func IsRegister(r int) bool { return within(r, 0, api.Registers-1) }
+func IsRegister(r int) bool { return Within(r, 0, api.Registers-1) }
 
 // Cut makes a value of a number that may be beyond.
 func Cut(n int) int { return min(max(n, -api.MaxValue), api.MaxValue) }
 
-func isValue(n int) bool { return within(n, -api.MaxValue, api.MaxValue) }
+// AreValues tells whether registers could hold all of these numbers.
+func AreValues(l []int) bool {
+	for _, n := range l {
+		if !isValue(n) {
+			return false
+		}
+	}
+	return true
+}
 
-func within(n, low, high int) bool { return low <= n && n <= high }
+func isValue(n int) bool { return Within(n, -api.MaxValue, api.MaxValue) }
+
+// Within tells whether a number is from low to high.
+func Within(n, low, high int) bool { return low <= n && n <= high }
 
 // Copy makes a model that shares no memory with the given one, whose owner may go on writing into it.
 func Copy(m api.Model) api.Model {

@@ -131,3 +131,18 @@ func TestCut(t *testing.T) {
 		}
 	}
 }
+
+func TestAreValues(t *testing.T) {
+	for _, c := range []struct {
+		l    []int
+		want bool
+	}{
+		{nil, true}, {[]int{}, true}, {[]int{-1000000000, 0, 1000000000}, true},
+		{[]int{1000000001}, false}, {[]int{-1000000001, 0}, false}, {[]int{0, 0, 1000000001}, false},
+		{[]int{math.MinInt}, false}, {[]int{0, math.MaxInt, 0}, false},
+	} {
+		if got := AreValues(c.l); got != c.want {
+			t.Errorf("P10: AreValues(%v) = %v, want %v", c.l, got, c.want)
+		}
+	}
+}

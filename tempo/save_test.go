@@ -221,24 +221,34 @@ func TestLoadOfEvents(t *testing.T) {
 	}
 }
 
-// TestLoadOfNumbersAsTheyMayNotBeWritten writes each number otherwise.
-func TestLoadOfNumbersAsTheyMayNotBeWritten(t *testing.T) {
-	m, draws, numbers := threeWait()
+// writtenOtherwise: numbers as they may not be written, each in its turn, and with bytes missing or left over.
+func writtenOtherwise(numbers []int) [][]byte {
+	var all [][]byte
 	for at := range numbers {
 		ahead, behind := written(numbers[:at]...), written(numbers[at+1:]...)
 		own := written(numbers[at])
 		own[len(own)-1] |= 128
 		for _, more := range []string{"\x00", "\x80\x00", "\x80\x80\x80\x80\x80\x80\x80\x80\x00", "\x80\x80\x80\x80\x80\x80\x80\x80\x80\x80\x01", ""} {
-			wantLoad(t, m, draws, headed(slices.Concat(ahead, own, []byte(more), behind)), api.ErrForm)
+			all = append(all, slices.Concat(ahead, own, []byte(more), behind))
 		}
-		wantLoad(t, m, draws, headed(slices.Concat(ahead, bytes.Repeat([]byte{255}, 9), []byte{1}, behind)), api.ErrForm)
-		wantLoad(t, m, draws, headed(slices.Concat(ahead, bytes.Repeat([]byte{255}, 8), []byte{127}, behind)), api.ErrForm)
-		wantLoad(t, m, draws, headed(ahead), api.ErrForm)
-		wantLoad(t, m, draws, headed(append(ahead, 128)), api.ErrForm)
-		wantLoad(t, m, draws, headed(append(ahead, behind...)), api.ErrForm)
+		all = append(all,
+			slices.Concat(ahead, bytes.Repeat([]byte{255}, 9), []byte{1}, behind),
+			slices.Concat(ahead, bytes.Repeat([]byte{255}, 8), []byte{127}, behind),
+			ahead,
+			slices.Concat(ahead, []byte{128}),
+			slices.Concat(ahead, behind),
+		)
 	}
 	for _, more := range []string{"\x00", "\x01", "\x80", "\x00\x00\x00\x00", "\x01\x02\x00\x00"} {
-		wantLoad(t, m, draws, headed(append(written(numbers...), more...)), api.ErrForm)
+		all = append(all, append(written(numbers...), more...))
+	}
+	return all
+}
+
+func TestLoadOfNumbersAsTheyMayNotBeWritten(t *testing.T) {
+	m, draws, numbers := threeWait()
+	for _, b := range writtenOtherwise(numbers) {
+		wantLoad(t, m, draws, headed(b), api.ErrForm)
 	}
 }
 

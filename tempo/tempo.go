@@ -121,10 +121,38 @@ func Load(m api.Model, draws []int, b []byte) (*Kernel, api.Errno) {
 }
 
 // Encode writes records as bytes (P10).
-func Encode(l []api.Record) ([]byte, api.Errno) { return nil, api.OK }
+func Encode(l []api.Record) ([]byte, api.Errno) {
+	if !areRecords(l) {
+		return nil, api.ErrArg
+	}
+	w := wire.Begin(recordsHead)
+	writeRecords(w, l)
+	return w.End(), api.OK
+}
 
 // Decode reads records from bytes (P11).
-func Decode(b []byte) ([]api.Record, api.Errno) { return nil, api.OK }
+func Decode(b []byte) ([]api.Record, api.Errno) {
+	r, e := wire.Open(recordsHead, b)
+	if e != api.OK {
+		return nil, e
+	}
+	l := readRecords(r)
+	if !r.Ended() {
+		return nil, api.ErrForm
+	}
+	return l, api.OK
+}
 
-// Compare tells where two lists of records part (P12).
-func Compare(a []api.Record, b []api.Record) int { return 0 }
+// Compare tells where two lists of records part; -1, if they do not (P12).
+func Compare(a []api.Record, b []api.Record) int {
+	both := min(len(a), len(b))
+	for i := range both {
+		if !sameRecord(a[i], b[i]) {
+			return i
+		}
+	}
+	if len(a) == len(b) {
+		return -1
+	}
+	return both
+}
